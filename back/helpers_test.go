@@ -7,6 +7,7 @@ import (
 
 	"cheesepress/api"
 	"cheesepress/back"
+	"cheesepress/digits"
 )
 
 // widths are numbers of bits: all that are allowed, and others.
@@ -31,37 +32,18 @@ func values() []uint64 {
 	return list
 }
 
-// digits are the lowest bits of a number as characters 0 and 1, the lowest one first.
-func digits(value uint64, n int) string {
-	var b strings.Builder
-	for range n {
-		b.WriteByte("01"[value&1])
-		value >>= 1
-	}
-	return b.String()
-}
-
-// digitsOf are the bits of a string as characters 0 and 1, in their order.
-func digitsOf(s string) string {
-	var b strings.Builder
-	for i := range len(s) {
-		b.WriteString(digits(uint64(s[i]), 8))
-	}
-	return b.String()
-}
-
 // inside are the bits of a stream as characters, without its padding.
 func inside(stream string) string {
-	all := digitsOf(stream)
+	all := digits.Text(stream)
 	return all[:strings.LastIndexByte(all, '1')]
 }
 
 // fromEnd is the number of the last n characters, the last one of which is the highest bit; characters that are missing count as 0.
-func fromEnd(digits string, n int) uint64 {
+func fromEnd(bits string, n int) uint64 {
 	var sum uint64
 	for i := range n {
 		sum *= 2
-		if at := len(digits) - 1 - i; at >= 0 && digits[at] == '1' {
+		if at := len(bits) - 1 - i; at >= 0 && bits[at] == '1' {
 			sum++
 		}
 	}
@@ -70,7 +52,7 @@ func fromEnd(digits string, n int) uint64 {
 
 // written are the bits of a writer.
 func written(w api.BackWriter) string {
-	return digitsOf(w.S) + digits(uint64(w.Part), w.N)
+	return digits.Text(w.S) + digits.Of(uint64(w.Part), w.N)
 }
 
 // put writes bits where that must succeed.

@@ -7,6 +7,7 @@ import (
 
 	"cheesepress/api"
 	"cheesepress/back"
+	"cheesepress/digits"
 )
 
 // wrongWriters are writers that are not right.
@@ -65,7 +66,7 @@ func TestPut(t *testing.T) {
 					}
 					continue
 				}
-				if written(got) != before+digits(value, n) || err != api.OK || back.Check(got) != api.OK {
+				if written(got) != before+digits.Of(value, n) || err != api.OK || back.Check(got) != api.OK {
 					t.Errorf("Put(%s, %d, %d) = %v, %v", before, n, value, got, err)
 				}
 			}
@@ -188,7 +189,7 @@ func TestWriterTwice(t *testing.T) {
 	w := put(t, api.BackWriter{}, 11, 0x2b5)
 	kept := w
 	one, two := put(t, w, 32, 0xffffffff), put(t, w, 32, 0)
-	if w != kept || written(one) != written(w)+digits(0xffffffff, 32) || written(two) != written(w)+digits(0, 32) {
+	if w != kept || written(one) != written(w)+digits.Of(0xffffffff, 32) || written(two) != written(w)+digits.Of(0, 32) {
 		t.Errorf("%v became %v, and %v and %v came of it", kept, w, one, two)
 	}
 }

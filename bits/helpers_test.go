@@ -2,11 +2,11 @@ package bits_test
 
 import (
 	"math"
-	"strings"
 	"testing"
 
 	"cheesepress/api"
 	"cheesepress/bits"
+	"cheesepress/digits"
 )
 
 // widths are numbers of bits: all that are allowed, and others.
@@ -31,40 +31,9 @@ func values() []int {
 	return list
 }
 
-// digits are the lowest bits of a number as characters 0 and 1, the lowest one first.
-func digits(value, n int) string {
-	var b strings.Builder
-	for range n {
-		b.WriteByte("01"[value&1])
-		value >>= 1
-	}
-	return b.String()
-}
-
-// digitsOf are the bits of a string as characters 0 and 1, in their order.
-func digitsOf(s string) string {
-	var b strings.Builder
-	for i := range len(s) {
-		b.WriteString(digits(int(s[i]), 8))
-	}
-	return b.String()
-}
-
-// numberOf is the sum of bits, each times 1 << its place.
-func numberOf(digits string) int {
-	sum, times := 0, 1
-	for i := range len(digits) {
-		if digits[i] == '1' {
-			sum += times
-		}
-		times *= 2
-	}
-	return sum
-}
-
 // written are the bits of a writer.
 func written(w api.BitWriter) string {
-	return digitsOf(w.S) + digits(w.Part, w.N)
+	return digits.Text(w.S) + digits.Of(w.Part, w.N)
 }
 
 // zeros is a string of n bytes 0.
@@ -83,11 +52,11 @@ func put(t *testing.T, w api.BitWriter, n, value int) api.BitWriter {
 }
 
 // writeDigits makes a writer of bits as characters, bit by bit.
-func writeDigits(t *testing.T, digits string) api.BitWriter {
+func writeDigits(t *testing.T, text string) api.BitWriter {
 	t.Helper()
 	var w api.BitWriter
-	for i := range len(digits) {
-		w = put(t, w, 1, int(digits[i]-'0'))
+	for i := range len(text) {
+		w = put(t, w, 1, int(text[i]-'0'))
 	}
 	return w
 }

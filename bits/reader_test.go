@@ -7,6 +7,7 @@ import (
 
 	"cheesepress/api"
 	"cheesepress/bits"
+	"cheesepress/digits"
 )
 
 // wrongReaders are readers that are not right, each with its error.
@@ -84,7 +85,7 @@ func TestReadLong(t *testing.T) {
 // P2.2, P2.8: Take and Peek at every bit, for every width.
 func TestTakePeek(t *testing.T) {
 	for _, s := range texts() {
-		all := digitsOf(s)
+		all := digits.Text(s)
 		for bit := range len(all) + 1 {
 			r := api.BitReader{S: s, Bit: bit}
 			rest := all[bit:]
@@ -97,11 +98,11 @@ func TestTakePeek(t *testing.T) {
 						t.Errorf("%x at bit %d, width %d: Take %v, %d, %v, Peek %d, %v", s, bit, n, next, value, err, peeked, peekErr)
 					}
 				case n > len(rest):
-					if next != (api.BitReader{}) || value != 0 || err != api.ErrShort || peeked != numberOf(rest) || peekErr != api.OK {
+					if next != (api.BitReader{}) || value != 0 || err != api.ErrShort || peeked != digits.Number(rest) || peekErr != api.OK {
 						t.Errorf("%x at bit %d, width %d: Take %v, %d, %v, Peek %d, %v", s, bit, n, next, value, err, peeked, peekErr)
 					}
 				default:
-					want := numberOf(rest[:n])
+					want := digits.Number(rest[:n])
 					if next != (api.BitReader{S: s, Bit: bit + n}) || value != want || err != api.OK || peeked != want || peekErr != api.OK {
 						t.Errorf("%x at bit %d, width %d: Take %v, %d, %v, Peek %d, %v", s, bit, n, next, value, err, peeked, peekErr)
 					}

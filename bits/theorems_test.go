@@ -6,6 +6,7 @@ import (
 
 	"cheesepress/api"
 	"cheesepress/bits"
+	"cheesepress/digits"
 )
 
 // some returns a width and a value of it; the greatest value, and 0, come often.
@@ -100,7 +101,7 @@ func TestWriterTwice(t *testing.T) {
 	w := put(t, api.BitWriter{}, 11, 0x2b5)
 	kept := w
 	one, two := put(t, w, 32, 0xffffffff), put(t, w, 32, 0)
-	if w != kept || written(one) != written(w)+digits(0xffffffff, 32) || written(two) != written(w)+digits(0, 32) {
+	if w != kept || written(one) != written(w)+digits.Of(0xffffffff, 32) || written(two) != written(w)+digits.Of(0, 32) {
 		t.Errorf("%v became %v, and %v and %v came of it", kept, w, one, two)
 	}
 }

@@ -7,6 +7,7 @@ import (
 
 	"cheesepress/api"
 	"cheesepress/bits"
+	"cheesepress/digits"
 )
 
 // wrongWriters are writers that are not right, each with its error.
@@ -94,7 +95,7 @@ func TestPut(t *testing.T) {
 					}
 					continue
 				}
-				if written(got) != before+digits(value, n) || err != api.OK || bits.Check(got) != api.OK {
+				if written(got) != before+digits.Of(value, n) || err != api.OK || bits.Check(got) != api.OK {
 					t.Errorf("Put(%s, %d, %d) = %v, %v", before, n, value, got, err)
 				}
 			}
@@ -229,7 +230,7 @@ func TestNumberOfBits(t *testing.T) {
 		if value < 0 || value >= 1<<32 {
 			continue
 		}
-		if got := numberOf(written(put(t, api.BitWriter{}, 32, value))); got != value {
+		if got := digits.Number(written(put(t, api.BitWriter{}, 32, value))); got != value {
 			t.Errorf("%d is written as %d", value, got)
 		}
 	}

@@ -19,12 +19,12 @@ func occurring(counts []int) iter.Seq2[int, int] {
 
 // contest returns a function that is shown symbols with their ranks, which are from 0 on. It returns the first one of those with the greatest rank so far.
 func contest() func(symbol, rank int) int {
-	best, greatest := 0, -1
+	winner, greatest := 0, -1
 	return func(symbol, rank int) int {
 		if rank > greatest {
-			best, greatest = symbol, rank
+			winner, greatest = symbol, rank
 		}
-		return best
+		return winner
 	}
 }
 

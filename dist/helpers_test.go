@@ -8,6 +8,7 @@ import (
 	"strings"
 
 	"cheesepress/api"
+	"cheesepress/digits"
 	"cheesepress/dist"
 )
 
@@ -114,44 +115,6 @@ func wrong() []struct {
 	return list
 }
 
-// digits are the lowest bits of a number as characters 0 and 1, the lowest one first.
-func digits(value, n int) string {
-	var b strings.Builder
-	for range n {
-		b.WriteByte("01"[value&1])
-		value >>= 1
-	}
-	return b.String()
-}
-
-// digitsOf are the bits of a string.
-func digitsOf(s string) string {
-	var b strings.Builder
-	for i := range len(s) {
-		b.WriteString(digits(int(s[i]), 8))
-	}
-	return b.String()
-}
-
-// numberOf is the sum of bits, each times 1 << its place.
-func numberOf(digits string) int {
-	sum := 0
-	for i := len(digits) - 1; i >= 0; i-- {
-		sum = 2*sum + int(digits[i]-'0')
-	}
-	return sum
-}
-
-// packed are the bytes of bits, with bits 0 at the end.
-func packed(bits string) string {
-	bits += strings.Repeat("0", (8-len(bits)%8)%8)
-	b := make([]byte, len(bits)/8)
-	for i := range b {
-		b[i] = byte(numberOf(bits[8*i : 8*i+8]))
-	}
-	return string(b)
-}
-
 // modelWidth are b and t of the chapter.
 func modelWidth(left int) (b, t int) {
 	b = bits.Len(uint(left + 1))
@@ -160,17 +123,17 @@ func modelWidth(left int) (b, t int) {
 
 // modelWrite are the bits of a description, as the chapter has them.
 func modelWrite(d api.Dist) string {
-	out := digits(d.Log-5, 4)
+	out := digits.Of(d.Log-5, 4)
 	left := 1 << d.Log
 	for i := 0; left > 0; i++ {
 		b, t := modelWidth(left)
 		v := d.Probs[i] + 1
 		if v < t {
-			out += digits(v, b-1)
+			out += digits.Of(v, b-1)
 		} else if v < 1<<(b-1) {
-			out += digits(v, b)
+			out += digits.Of(v, b)
 		} else {
-			out += digits(v+t, b)
+			out += digits.Of(v+t, b)
 		}
 		left -= max(d.Probs[i], -d.Probs[i])
 		if d.Probs[i] != 0 {
@@ -181,14 +144,14 @@ func modelWrite(d api.Dist) string {
 			zeros++
 			i++
 		}
-		out += strings.Repeat("11", zeros/3) + digits(zeros%3, 2)
+		out += strings.Repeat("11", zeros/3) + digits.Of(zeros%3, 2)
 	}
 	return out
 }
 
 // modelRead reads a description bit by bit: the distribution, and how many bits it has; or an error.
 func modelRead(s string, most, symbols int) (d api.Dist, used int, err api.Errno) {
-	rest := digitsOf(s)
+	rest := digits.Text(s)
 	all := len(rest)
 	short := false
 	next := func(n int) int {
@@ -196,7 +159,7 @@ func modelRead(s string, most, symbols int) (d api.Dist, used int, err api.Errno
 			short, rest = true, ""
 			return 0
 		}
-		value := numberOf(rest[:n])
+		value := digits.Number(rest[:n])
 		rest = rest[n:]
 		return value
 	}

@@ -6,6 +6,7 @@ import (
 	"testing"
 
 	"cheesepress/api"
+	"cheesepress/digits"
 	"cheesepress/dist"
 )
 
@@ -148,7 +149,7 @@ func TestReadIsWritten(t *testing.T) {
 			t.Errorf("Read of Write(%v) = %v, %v", d, got, f)
 		}
 		n, _ := dist.Bits(d)
-		if digitsOf(s)[:n] == digitsOf(again)[:n] {
+		if digits.Text(s)[:n] == digits.Text(again)[:n] {
 			same++
 			continue
 		}
@@ -178,7 +179,7 @@ func zerosOf(d api.Dist) string {
 func TestZerosToldOtherwise(t *testing.T) {
 	d := distOf(5, 0, 0, 0, 32)
 	for _, zeros := range []string{"01", "00" + "10000" + "10", "10" + "10000" + "00", "00" + "10000" + "00" + "10000" + "00"} {
-		s := packed("0000" + "10000" + zeros + "111111")
+		s := digits.Pack("0000" + "10000" + zeros + "111111")
 		if got, next, f := dist.Read(s, 0, 5, 4); !dist.Same(got, d) || next != len(s) || f != (api.Fault{}) {
 			t.Errorf("Read(%x) = %v, %d, %v", s, got, next, f)
 		}

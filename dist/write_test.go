@@ -5,6 +5,7 @@ import (
 	"testing"
 
 	"cheesepress/api"
+	"cheesepress/digits"
 	"cheesepress/dist"
 )
 
@@ -13,8 +14,8 @@ func TestWriteBits(t *testing.T) {
 	for _, d := range right() {
 		before := slices.Clone(d.Probs)
 		want := modelWrite(d)
-		if s, err := dist.Write(d); s != packed(want) || err != api.OK {
-			t.Errorf("Write(%v) = %x, %v, not %x", d, s, err, packed(want))
+		if s, err := dist.Write(d); s != digits.Pack(want) || err != api.OK {
+			t.Errorf("Write(%v) = %x, %v, not %x", d, s, err, digits.Pack(want))
 		}
 		if n, err := dist.Bits(d); n != len(want) || err != api.OK {
 			t.Errorf("Bits(%v) = %d, %v, not %d", d, n, err, len(want))
@@ -43,8 +44,8 @@ func TestZeros(t *testing.T) {
 		// The Log in 4 bits; 0 is the value 1 in 5 bits; 32 is the value 33, and 30 more in 6 bits.
 		bits := "0000" + "10000" + want + "111111"
 		d := distOf(5, behind(full(zeros+1, 0), 32)...)
-		if s := written(d); s != packed(bits) {
-			t.Errorf("Write(%v) = %x, not %x", d, s, packed(bits))
+		if s := written(d); s != digits.Pack(bits) {
+			t.Errorf("Write(%v) = %x, not %x", d, s, digits.Pack(bits))
 		}
 	}
 }
