@@ -9,18 +9,19 @@ import (
 
 	"cheesepress/api"
 	"cheesepress/dist"
+	"cheesepress/samples"
 )
 
 // P8.1: Check of distributions that are right, and of others; the Log is checked first.
 func TestCheck(t *testing.T) {
-	for _, d := range right() {
+	for _, d := range samples.Right() {
 		if err := dist.Check(d); err != api.OK {
 			t.Errorf("Check(%v) = %v", d, err)
 		}
 	}
-	for _, c := range wrong() {
-		if err := dist.Check(c.d); err != c.err {
-			t.Errorf("Check(%v) = %v, not %v", c.d, err, c.err)
+	for _, c := range samples.Wrong() {
+		if err := dist.Check(c.Dist); err != c.Err {
+			t.Errorf("Check(%v) = %v, not %v", c.Dist, err, c.Err)
 		}
 	}
 }
@@ -32,8 +33,8 @@ func TestSize(t *testing.T) {
 		if log >= 0 && log <= 12 {
 			want = 1 << log
 		}
-		for _, probs := range [][]int{nil, {32}, {-5}, full(300, 1)} {
-			if got := dist.Size(distOf(log, probs...)); got != want {
+		for _, probs := range [][]int{nil, {32}, {-5}, samples.Full(300, 1)} {
+			if got := dist.Size(samples.Of(log, probs...)); got != want {
 				t.Errorf("Size(Log %d) = %d, not %d", log, got, want)
 			}
 		}
@@ -50,7 +51,7 @@ func spelled(s string) []int {
 		if many {
 			n, _ = strconv.Atoi(times)
 		}
-		probs = append(probs, full(n, x)...)
+		probs = append(probs, samples.Full(n, x)...)
 	}
 	return probs
 }
@@ -86,10 +87,10 @@ func TestPredefined(t *testing.T) {
 
 // P8.1: Same asks for the Log and all Probs, also of distributions that are not right.
 func TestSame(t *testing.T) {
-	list := []api.Dist{distOf(5), distOf(6), distOf(5, 32), distOf(6, 32), distOf(5, 32, 0), distOf(5, 0, 32), distOf(5, 16, 16), distOf(5, 16, -1), distOf(5, 16), distOf(-1, -7, 8)}
+	list := []api.Dist{samples.Of(5), samples.Of(6), samples.Of(5, 32), samples.Of(6, 32), samples.Of(5, 32, 0), samples.Of(5, 0, 32), samples.Of(5, 16, 16), samples.Of(5, 16, -1), samples.Of(5, 16), samples.Of(-1, -7, 8)}
 	for i, a := range list {
 		for j, b := range list {
-			if got := dist.Same(a, distOf(b.Log, slices.Clone(b.Probs)...)); got != (i == j) {
+			if got := dist.Same(a, samples.Of(b.Log, slices.Clone(b.Probs)...)); got != (i == j) {
 				t.Errorf("Same(%v, %v) = %v", a, b, got)
 			}
 		}
@@ -101,7 +102,7 @@ func TestSame(t *testing.T) {
 
 // The chapter's examples.
 func TestExamples(t *testing.T) {
-	d := distOf(5, 16, 16)
+	d := samples.Of(5, 16, 16)
 	if s, err := dist.Write(d); s != "\x10\x3f" || err != api.OK {
 		t.Errorf("Write(%v) = %x, %v", d, s, err)
 	}
@@ -117,7 +118,7 @@ func TestExamples(t *testing.T) {
 			t.Errorf("Read(%x, %d, %d, 9) = %v, %d, %v", c.s, c.at, c.most, d, next, f)
 		}
 	}
-	if n := dist.Size(distOf(6)); n != 64 {
+	if n := dist.Size(samples.Of(6)); n != 64 {
 		t.Errorf("Size(Log 6) = %d", n)
 	}
 }

@@ -1,118 +1,19 @@
 package dist_test
 
 import (
-	"math"
 	"math/bits"
 	"math/rand"
-	"slices"
 	"strings"
 
 	"cheesepress/api"
 	"cheesepress/digits"
 	"cheesepress/dist"
+	"cheesepress/samples"
 )
-
-// full are n probabilities of which each is prob.
-func full(n, prob int) []int {
-	return slices.Repeat([]int{prob}, n)
-}
-
-// behind are probabilities, and others behind them.
-func behind(probs []int, more ...int) []int {
-	return append(slices.Clone(probs), more...)
-}
-
-func distOf(log int, probs ...int) api.Dist {
-	return api.Dist{Log: log, Probs: probs}
-}
 
 // none tells whether a distribution is the zero value.
 func none(d api.Dist) bool {
 	return d.Log == 0 && len(d.Probs) == 0
-}
-
-// chanceDist is a distribution with zeros and -1 among its probabilities.
-func chanceDist(chance *rand.Rand) api.Dist {
-	d := api.Dist{Log: 5 + chance.Intn(8)}
-	zeros := chance.Intn(10)
-	greatest := 1 + chance.Intn(1<<d.Log)
-	for left := 1 << d.Log; left > 0; {
-		prob := 0
-		switch {
-		case len(d.Probs) == 255:
-			prob = left
-		case chance.Intn(10) < zeros:
-		case chance.Intn(4) == 0:
-			prob = -1
-		default:
-			prob = 1 + chance.Intn(min(left, greatest))
-		}
-		d.Probs = append(d.Probs, prob)
-		left -= max(prob, -prob)
-	}
-	return d
-}
-
-// right are distributions that are right.
-func right() []api.Dist {
-	list := []api.Dist{
-		distOf(5, 32), distOf(12, 4096), distOf(5, 16, 16), distOf(5, 0, 32), distOf(5, 31, -1), distOf(5, -1, 31), distOf(6, 30, 0, 0, 0, 34),
-		distOf(5, full(32, 1)...), distOf(5, full(32, -1)...), distOf(8, full(256, 1)...), distOf(8, full(256, -1)...), distOf(12, full(256, 16)...),
-		distOf(5, behind(full(255, 0), 32)...), distOf(12, behind(full(255, 0), 4096)...), distOf(5, behind(behind([]int{-1}, full(254, 0)...), 31)...),
-	}
-	// Zeros beside the ends of their groups.
-	for zeros := range 15 {
-		list = append(list, distOf(5, behind(full(zeros, 0), 32)...), distOf(7, behind(behind([]int{3}, full(zeros, 0)...), 124, -1)...))
-	}
-	chance := rand.New(rand.NewSource(8))
-	for range 400 {
-		list = append(list, chanceDist(chance))
-	}
-	return list
-}
-
-// wrong are distributions that are not right, each with its error.
-func wrong() []struct {
-	d   api.Dist
-	err api.Errno
-} {
-	type c = struct {
-		d   api.Dist
-		err api.Errno
-	}
-	list := []c{
-		{distOf(5), api.ErrTable},
-		{distOf(5, 0), api.ErrTable},
-		{distOf(5, 32, 0), api.ErrTable},
-		{distOf(5, 31), api.ErrTable},
-		{distOf(5, 33), api.ErrTable},
-		{distOf(5, 32, 1), api.ErrTable},
-		{distOf(5, 32, -1), api.ErrTable},
-		{distOf(5, 31, 2), api.ErrTable},
-		{distOf(5, -2, 34), api.ErrTable},
-		{distOf(5, -2, 30), api.ErrTable},
-		{distOf(5, 34, -2), api.ErrTable},
-		{distOf(5, math.MinInt), api.ErrTable},
-		{distOf(5, math.MaxInt), api.ErrTable},
-		{distOf(5, math.MaxInt, math.MaxInt, 34), api.ErrTable},
-		{distOf(5, 32, math.MaxInt), api.ErrTable},
-		{distOf(12, 4095), api.ErrTable},
-		{distOf(12, 4096, 1), api.ErrTable},
-		{distOf(5, full(31, -1)...), api.ErrTable},
-		{distOf(5, full(33, -1)...), api.ErrTable},
-		{distOf(8, full(257, 1)...), api.ErrTable},
-		{distOf(9, behind(full(256, 1), 256)...), api.ErrTable},
-		{distOf(5, behind(full(256, 0), 32)...), api.ErrTable},
-		{distOf(9, full(256, 1)...), api.ErrTable},
-	}
-	for _, log := range []int{math.MinInt, -5, -1, 0, 1, 4, 13, 14, 62, 63, 64, 69, math.MaxInt} {
-		size := 0
-		if log >= 0 && log < 62 {
-			size = 1 << log
-		}
-		list = append(list, c{distOf(log, size), api.ErrAccuracy}, c{distOf(log), api.ErrAccuracy}, c{distOf(log, -2), api.ErrAccuracy}, c{distOf(log, 32, 0), api.ErrAccuracy})
-	}
-	return list
 }
 
 // modelWidth are b and t of the chapter.
@@ -183,7 +84,7 @@ func modelRead(s string, most, symbols int) (d api.Dist, used int, err api.Errno
 		left -= max(v-1, 1-v)
 		for zeros := 3; v == 1 && zeros == 3; {
 			zeros = next(2)
-			d.Probs = append(d.Probs, full(zeros, 0)...)
+			d.Probs = append(d.Probs, samples.Full(zeros, 0)...)
 		}
 		if short || len(d.Probs) > symbols {
 			return api.Dist{}, 0, api.ErrTable

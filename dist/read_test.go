@@ -8,6 +8,7 @@ import (
 	"cheesepress/api"
 	"cheesepress/digits"
 	"cheesepress/dist"
+	"cheesepress/samples"
 )
 
 // P8.3, P8.6: Read of whatever bytes, for many limits, from the beginning and behind other bytes.
@@ -40,7 +41,7 @@ func TestRead(t *testing.T) {
 
 // P8.3, P1: ErrRange at 0 because of an argument, whatever the bytes are.
 func TestReadRange(t *testing.T) {
-	s := written(distOf(5, 16, 16))
+	s := written(samples.Of(5, 16, 16))
 	outside := func(least, most int) []int {
 		return []int{math.MinInt, -1, least - 1, most + 1, most + 2, math.MaxInt}
 	}
@@ -64,7 +65,7 @@ func TestReadRange(t *testing.T) {
 
 // P8.3: the bounds of the arguments; at the end of the string the bytes are used up.
 func TestReadBounds(t *testing.T) {
-	for _, d := range right() {
+	for _, d := range samples.Right() {
 		s := written(d)
 		if got, next, f := dist.Read(s, 0, d.Log, len(d.Probs)); !dist.Same(got, d) || next != len(s) || f != (api.Fault{}) {
 			t.Errorf("Read(%x) = %v, %d, %v, not %v", s, got, next, f, d)
@@ -103,7 +104,7 @@ func TestReadAccuracy(t *testing.T) {
 // P8.3, P1: strings that are longer than any input.
 func TestReadLong(t *testing.T) {
 	long := strings.Repeat("x", api.MaxInput)
-	for _, d := range right()[:10] {
+	for _, d := range samples.Right()[:10] {
 		s := written(d)
 		for _, at := range []int{0, 1, len(long)} {
 			got, next, f := dist.Read(long[:at]+s+long, at, d.Log, len(d.Probs))
@@ -122,7 +123,7 @@ func TestReadLong(t *testing.T) {
 
 // P8.4, P8.2: a distribution is read from its description, whatever follows.
 func TestWrittenIsRead(t *testing.T) {
-	for _, d := range right() {
+	for _, d := range samples.Right() {
 		for _, around := range []string{"", "\x00", "\xff\xff", "abcdefgh"} {
 			s := written(d)
 			got, next, f := dist.Read(around+s+around, len(around), 12, 256)
@@ -177,7 +178,7 @@ func zerosOf(d api.Dist) string {
 
 // P8.3, P8.4: zeros may be told in several ways: none behind each, or in groups.
 func TestZerosToldOtherwise(t *testing.T) {
-	d := distOf(5, 0, 0, 0, 32)
+	d := samples.Of(5, 0, 0, 0, 32)
 	for _, zeros := range []string{"01", "00" + "10000" + "10", "10" + "10000" + "00", "00" + "10000" + "00" + "10000" + "00"} {
 		s := digits.Pack("0000" + "10000" + zeros + "111111")
 		if got, next, f := dist.Read(s, 0, 5, 4); !dist.Same(got, d) || next != len(s) || f != (api.Fault{}) {
@@ -188,7 +189,7 @@ func TestZerosToldOtherwise(t *testing.T) {
 
 // P8.5: a description that is cut off is ErrTable.
 func TestCutOff(t *testing.T) {
-	for _, d := range right() {
+	for _, d := range samples.Right() {
 		s := written(d)
 		for n := range len(s) {
 			for _, at := range []int{0, 2} {
