@@ -1,4 +1,4 @@
-// Package samples has distributions for the tests of the layers that build on them.
+// Package samples has distributions and lengths of codes for the tests of the layers that build on them.
 package samples
 
 import (
@@ -10,7 +10,7 @@ import (
 
 const (
 	minLog = 5   // the least accuracy
-	chance = 400 // how many distributions that look like chance there are
+	chance = 400 // how many samples of a kind look like chance
 )
 
 // Spoilt is a distribution that is not right, and its error.

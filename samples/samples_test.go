@@ -4,7 +4,9 @@ import (
 	"slices"
 	"testing"
 
+	"cheesepress/api"
 	"cheesepress/dist"
+	"cheesepress/length"
 	"cheesepress/samples"
 )
 
@@ -48,5 +50,45 @@ func TestKinds(t *testing.T) {
 	}
 	if rareOnly[5] == 0 || rareOnly[8] == 0 {
 		t.Error("no distribution has only -1")
+	}
+}
+
+// Lengths are complete: they are right for layer 13, and leave out nothing of what they are called.
+func TestLengths(t *testing.T) {
+	list, again := samples.Lengths(), samples.Lengths()
+	var most, sizes [257]int
+	zeros, lastZero := 0, 0
+	for i, l := range list {
+		if err := length.Check(l); err != api.OK {
+			t.Errorf("Check(%v) = %v", l, err)
+		}
+		if !slices.Equal(l, again[i]) {
+			t.Errorf("%v has become %v", l, again[i])
+		}
+		most[slices.Max(l)]++
+		sizes[len(l)]++
+		if slices.Contains(l, 0) {
+			zeros++
+		}
+		if l[len(l)-1] == 0 {
+			lastZero++
+		}
+	}
+	for m := 1; m <= api.MaxHuf; m++ {
+		if most[m] < 5 {
+			t.Errorf("the greatest length of %d lists is %d", most[m], m)
+		}
+	}
+	if sizes[2] == 0 || sizes[256] == 0 || zeros < 100 || lastZero < 20 || zeros > len(list)-20 {
+		t.Errorf("%d lists of 2, %d of 256; %d with a 0, %d at the end", sizes[2], sizes[256], zeros, lastZero)
+	}
+}
+
+// All wrong lengths have the error that they are given.
+func TestWrongLengths(t *testing.T) {
+	for _, c := range samples.WrongLengths() {
+		if err := length.Check(c.Lengths); err != c.Err || err == api.OK {
+			t.Errorf("Check(%v) = %v, not %v", c.Lengths, err, c.Err)
+		}
 	}
 }
